@@ -96,10 +96,10 @@ func isGivenWindows(t *testing.T, d api.Demand, k *cluster.Cluster) {
 // isGivenTime answers how many messages were held against the first time of each.
 func isGivenTime(t *testing.T, d api.Demand, k *cluster.Cluster) int {
 	t.Helper()
-	type end struct{ stream, port int }
+	type end struct{ stream, node, port int }
 	came := map[end]int{}
 	for _, x := range k.Deliveries() {
-		e := end{x.Link, x.Port}
+		e := end{x.Link, x.Node, x.Port}
 		if _, is := came[e]; !is {
 			came[e] = x.Slot
 		}
@@ -119,9 +119,9 @@ func isGivenTime(t *testing.T, d api.Demand, k *cluster.Cluster) int {
 		for turn%d.Nodes != d.Tasks[s.From].Node {
 			turn++
 		}
-		for n := range s.To {
+		for n, to := range s.To {
 			sent++
-			if slot, is := came[end{i, port + 1 + n}]; !is || slot != turn {
+			if slot, is := came[end{i, d.Tasks[to].Node, port + 1 + n}]; !is || slot != turn {
 				t.Fatalf("stream %d of %+v came in slot %d, %v; not in %d", i, d, slot, is, turn)
 			}
 		}
