@@ -85,22 +85,34 @@ func TestOnlyRead(t *testing.T) {
 	}
 }
 
-// P18.4: what was handed in is not kept: what becomes of it behind a call turns no answer,
-// and neither do calls with others between, or at once.
+// slide puts all that is in a slot of a round into the next one.
+func slide(c api.Config) {
+	for _, l := range append(c.Windows, c.Owners) {
+		last := l[len(l)-1]
+		copy(l[1:], l)
+		l[0] = last
+	}
+}
+
+// P18.4: what was handed in is not kept: what becomes of it behind a call is seen by the
+// next one, and turns no other answer; nor do calls with others between, or at once.
 func TestNothingIsKept(t *testing.T) {
 	links := []int{0, 2}
 	want, others := all(full(), links), all(ofTheChapter(), links)
 	given := full()
-	all(given, links)
-	for _, row := range given.Windows {
-		clear(row)
+	for by := range given.Nodes {
+		isRuns(t, given, 2, by, 2+by, api.OK)
+		isSends(t, given, 5, by, 2+by, api.OK)
+		isDelay(t, given, 0, 0, 4+by, 7, api.OK)
+		isChain(t, given, []int{0}, by, 5+by, api.OK)
+		if l := all(full(), links); !slices.Equal(l, want) {
+			t.Errorf("%v, not %v", l, want)
+		}
+		slide(given)
 	}
-	clear(given.Owners)
-	clear(given.Parts)
-	clear(given.Ports)
-	if l := all(given, links); slices.Equal(l, want) {
-		t.Error("what was turned is not seen")
-	}
+	links[0], links[1] = 2, 2
+	isChain(t, given, links, 0, 15, api.OK)
+	links[0], links[1] = 0, 2
 	var w sync.WaitGroup
 	for range 8 {
 		w.Go(func() {
